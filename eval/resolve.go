@@ -1,6 +1,9 @@
 package eval
 
-import "counterproof/api"
+import (
+	"counterproof/api"
+	"counterproof/pages"
+)
 
 // expression, statement and function are a program's, with places in place of names, so that no step looks one up.
 type expression struct {
@@ -25,12 +28,12 @@ type function struct {
 type places struct{ arrays, funcs, variables map[string]int }
 
 // resolve is a program's functions and its arrays.
-func resolve(p api.Prog) ([]function, []array) {
+func resolve(p api.Prog) ([]function, []*pages.Array) {
 	at := places{arrays: map[string]int{}, funcs: map[string]int{}}
-	var arrays []array
+	var arrays []*pages.Array
 	for i, a := range p.Arrays {
 		at.arrays[a.Name] = i
-		arrays = append(arrays, array{size: a.Size})
+		arrays = append(arrays, pages.New(a.Size))
 	}
 	for i, f := range p.Funcs {
 		at.funcs[f.Name] = i
