@@ -26,23 +26,24 @@ func (m meeting) together(values []int) {
 	}
 }
 
-// right tells whether a function may be, with all of its places below Values.
-func right(f api.Flow) bool {
-	if f.Values < 0 || f.Values > api.MaxValues || len(flow.Live(f)) != len(f.Blocks) {
-		return false
+// wanted are the values that are wanted at each block's beginning; false: the function may not be, or has places that are not below Values.
+func wanted(f api.Flow) ([][]int, bool) {
+	if f.Values < 0 || f.Values > api.MaxValues {
+		return nil, false
 	}
-	beyond := func(v int) bool { return v >= f.Values }
-	for _, b := range f.Blocks {
-		if slices.ContainsFunc(asked(b.Term), beyond) {
-			return false
-		}
-		for _, x := range b.Ins {
-			if slices.ContainsFunc(named(x), beyond) {
-				return false
-			}
+	live := flow.Live(f)
+	return live, len(live) == len(f.Blocks) && !slices.ContainsFunc(f.Blocks, func(b api.Block) bool { return beyond(b, f.Values) })
+}
+
+// beyond tells whether a block names a value that there is not.
+func beyond(b api.Block, values int) bool {
+	above := func(v int) bool { return v >= values }
+	for _, x := range b.Ins {
+		if slices.ContainsFunc(named(x), above) {
+			return true
 		}
 	}
-	return true
+	return slices.ContainsFunc(asked(b.Term), above)
 }
 
 // named are all values that an instruction names.
@@ -64,9 +65,9 @@ func asked(t api.Term) []int {
 }
 
 // meetings are the values of a function that meet. Two that are wanted somewhere both were so ever since one of them was set, or since the beginning of block 0; only in blocks that are not come to there may be no such place, so that their beginnings are looked at, too.
-func meetings(f api.Flow) meeting {
+func meetings(f api.Flow, live [][]int) meeting {
 	m := meeting{}
-	live, reach := flow.Live(f), flow.Reach(f)
+	reach := flow.Reach(f)
 	for b, after := range flow.All(f) {
 		if b == 0 || !reach[b] {
 			m.together(live[b])
@@ -80,14 +81,18 @@ func meetings(f api.Flow) meeting {
 		}
 	}
 	if len(live) > 0 {
-		params := min(f.Params, f.Values)
-		for _, v := range live[0] {
-			for w := range params {
-				if v < params {
-					m.add(v, w)
-				}
+		m.params(live[0], min(f.Params, f.Values))
+	}
+	return m
+}
+
+// params adds that those of the first values that are wanted at the beginning meet all of the first ones.
+func (m meeting) params(wanted []int, first int) {
+	for _, v := range wanted {
+		for w := range first {
+			if v < first {
+				m.add(v, w)
 			}
 		}
 	}
-	return m
 }
