@@ -50,6 +50,20 @@ func signs(n int) api.Expr {
 	return e
 }
 
+// within puts a statement into so many others of one kind, as Then or as Else.
+func within(n int, kind int, other bool, s api.Stmt) api.Stmt {
+	for range n {
+		outer := api.Stmt{Kind: kind, Args: list(x)}
+		if other {
+			outer.Else = block(s)
+		} else {
+			outer.Then = block(s)
+		}
+		s = outer
+	}
+	return s
+}
+
 // nest puts a statement into so many others.
 func nest(n int, s api.Stmt) api.Stmt {
 	for i := range n {
@@ -83,6 +97,11 @@ func TestRightExpr(t *testing.T) {
 		}
 	}
 	bad := []api.Expr{{}, {Kind: -1}, {Kind: 8}, num(-1), num(-1 << 63), name(""), name("1"), name("if"), name(long + "n"), signs(40), signs(60000), call("f", append(list(x), six...)...), call("read"), index("", x), call("")}
+	for _, kind := range []int{api.ExprNum, api.ExprVar, api.ExprOne, api.ExprTwo, api.ExprIndex, api.ExprRead} {
+		e := map[int]api.Expr{api.ExprNum: num(1), api.ExprVar: x, api.ExprOne: one(api.OpNeg, x), api.ExprTwo: two(api.OpAdd, x, x), api.ExprIndex: index("a", x), api.ExprRead: read}[kind]
+		e.Args = append(list(e.Args...), x) // one more than it has
+		bad = append(bad, e)
+	}
 	for _, e := range []api.Expr{num(1), x, one(api.OpNeg, x), two(api.OpAdd, x, x), call("f", x), index("a", x), read} {
 		for i, other := range []api.Expr{{Op: 1}, {Op: api.OpNeg}, {N: 1}, {Name: "x"}, {Args: list(x)}, {Args: list(x, x)}} {
 			f := e
@@ -169,6 +188,13 @@ func TestRight(t *testing.T) {
 		then.Then = block(api.Stmt{})
 		other.Else = block(stmt(api.StmtPrint, "", num(-1)))
 		bad = append(bad, prog(then), prog(other))
+	}
+	for n := 30; n < 85; n++ {
+		for i, s := range []api.Stmt{within(n, api.StmtIf, false, stmt(api.StmtBreak, "")), within(n, api.StmtIf, true, stmt(api.StmtBreak, "")), within(n, api.StmtWhile, false, stmt(api.StmtBreak, ""))} {
+			if tree.Right(prog(stmt(api.StmtBreak, ""), s)) != (n < 40) {
+				t.Error("T2: so deep", n, i)
+			}
+		}
 	}
 	for i, p := range bad {
 		if tree.Right(p) {
