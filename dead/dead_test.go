@@ -194,29 +194,31 @@ func TestLong(t *testing.T) {
 
 // TestMemory: R3.
 func TestMemory(t *testing.T) {
-	a, b := sample.Unit(sample.New(8)), sample.Unit(sample.New(8))
-	got, _ := dead.Dead(a)
-	want, _ := dead.Dead(b)
-	if !reflect.DeepEqual(a, b) {
-		t.Error("R3: written into")
-	}
-	for i := range got.Arrays {
-		got.Arrays[i].Size = 99
-	}
-	for _, f := range got.Flows {
-		for _, x := range f.Blocks {
-			for k := range x.Ins {
-				for j := range x.Ins[k].Args {
-					x.Ins[k].Args[j] = 99
-				}
-				_ = append(x.Ins[k].Args, 99)
-				x.Ins[k].D = 99
-			}
-			_ = append(x.Ins, api.Ins{})
+	for seed := range 40 {
+		a, b := sample.Unit(sample.New(seed)), sample.Unit(sample.New(seed))
+		got, _ := dead.Dead(a)
+		want, _ := dead.Dead(b)
+		if !reflect.DeepEqual(a, b) {
+			t.Error("R3: written into")
 		}
-		_ = append(f.Blocks, api.Block{})
-	}
-	if again, _ := dead.Dead(a); !reflect.DeepEqual(a, b) || !reflect.DeepEqual(again, want) {
-		t.Error("R3: shared")
+		for i := range got.Arrays {
+			got.Arrays[i].Size = 99
+		}
+		for _, f := range got.Flows {
+			for _, x := range f.Blocks {
+				for k := range x.Ins {
+					for j := range x.Ins[k].Args {
+						x.Ins[k].Args[j] = 99
+					}
+					_ = append(x.Ins[k].Args, 99)
+					x.Ins[k].D = 99
+				}
+				_ = append(x.Ins, api.Ins{})
+			}
+			_ = append(f.Blocks, api.Block{})
+		}
+		if again, _ := dead.Dead(a); !reflect.DeepEqual(a, b) || !reflect.DeepEqual(again, want) {
+			t.Error("R3: shared")
+		}
 	}
 }
