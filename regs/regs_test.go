@@ -121,7 +121,7 @@ func TestFits(t *testing.T) {
 // wrong are functions of which nothing is told.
 func wrong() []api.Flow {
 	return []api.Flow{
-		function(0, -1), function(0, 50001), function(0, 2, block(back(2))), function(0, 2, block(back(0), num(2, 1))), function(0, 2, block(back(0), print(2))), function(0, 2, block(choose(5, 0, 0))), function(0, 2, block(api.Term{Kind: api.TermTrap, A: 2})), function(0, 2, block(jump(1))), function(0, 2, block(back(-1))), function(0, 2, block(back(0), num(-1, 1))), function(0, 60000, block(back(55000))), function(0, 2, block(back(0), api.Ins{Kind: api.InsCall, Args: []int{0, 2}})), function(0, 0, block(back(0))),
+		function(0, -1), function(0, 50001), function(0, 2, block(back(2))), function(0, 2, block(back(0), num(2, 1))), function(0, 2, block(back(0), print(2))), function(0, 2, block(choose(5, 0, 0))), function(0, 2, block(api.Term{Kind: api.TermTrap, A: 2})), function(0, 2, block(jump(1))), function(0, 2, block(back(-1))), function(0, 2, block(back(0), num(-1, 1))), function(0, 60000, block(back(55000))), function(0, 2, block(back(0), api.Ins{Kind: api.InsCall, Args: []int{0, 2}})), function(0, 0, block(back(0))), function(0, 0, block(jump(0), num(0, 1))), function(0, 0, block(jump(0), api.Ins{Kind: api.InsPrint})),
 	}
 }
 
@@ -143,6 +143,11 @@ func TestWrong(t *testing.T) {
 	for _, n := range []int{0, 1, 32} {
 		if got := regs.Alloc(f, n); len(got) != 1 {
 			t.Error("G2: so many registers", n, got)
+		}
+	}
+	for _, n := range []int{0, 3} {
+		if got := regs.Alloc(function(n, n), 2); len(got) != n {
+			t.Error("G2: no blocks", got)
 		}
 	}
 	most := function(0, 50000, block(back(0)))
@@ -237,10 +242,8 @@ func kept(u api.Unit, registers int) api.Unit {
 			return f.Params + places[v]
 		}
 		g := api.Flow{Name: f.Name, Params: f.Params, Values: f.Params + registers + regs.Slots(places), Blocks: []api.Block{{Term: jump(1)}}}
-		for _, v := range flow.Live(f)[0] {
-			if v < f.Params {
-				g.Blocks[0].Ins = append(g.Blocks[0].Ins, move(at(v), v))
-			}
+		for v := range f.Params {
+			g.Blocks[0].Ins = append(g.Blocks[0].Ins, move(at(v), v))
 		}
 		for _, b := range f.Blocks {
 			var c api.Block
