@@ -10,7 +10,11 @@ import (
 	"counterproof/asm"
 	"counterproof/check"
 	"counterproof/compile"
+	"counterproof/dead"
+	"counterproof/emit"
 	"counterproof/eval"
+	"counterproof/fold"
+	"counterproof/lower"
 	"counterproof/mach"
 	"counterproof/parse"
 	"counterproof/sample"
@@ -120,6 +124,10 @@ func TestErrors(t *testing.T) {
 	if _, err, line := compile.Tree(api.Prog{Arrays: []api.Array{{Name: "1"}}}, 1); err != api.ErrArg || line != 1 {
 		t.Error("K2: not right", err, line)
 	}
+	huge := api.Prog{Funcs: []api.Func{{Name: "main", Body: slices.Repeat([]api.Stmt{{Kind: api.StmtPrint, Args: []api.Expr{{Kind: api.ExprNum}}}}, 200001)}}}
+	if _, err, line := compile.Tree(huge, 2); err != api.ErrLimit || line != 1 {
+		t.Error("K2: more than a unit may have", err, line)
+	}
 	long := api.Prog{Funcs: []api.Func{{Name: "main", Body: slices.Repeat([]api.Stmt{{Kind: api.StmtPrint, Args: []api.Expr{{Kind: api.ExprNum}}}}, 40001)}}}
 	wide := "int f(int x) { return x; } int main() { int v; v = 0"
 	for range 3 {
@@ -182,6 +190,37 @@ func TestTexts(t *testing.T) {
 	c, _, _ := compile.Compile("int main() { print(2 * 21); }", 2)
 	if got := mach.Run(c, nil, 100); got.Status != api.StatDone || got.Code != 0 || !slices.Equal(got.Out, []int{42}) {
 		t.Error("K4:", got)
+	}
+}
+
+// TestLevels: K2: what is done at each level.
+func TestLevels(t *testing.T) {
+	d := sample.New(41)
+	unlike := 0
+	for range 150 {
+		p := sample.Prog(d)
+		u, _ := lower.Lower(p)
+		v := u
+		for range 2 {
+			v, _ = fold.Fold(v)
+			v, _ = dead.Dead(v)
+		}
+		var want [3]api.Code
+		want[0], _ = emit.Emit(u, 0)
+		want[1], _ = emit.Emit(u, 18)
+		want[2], _ = emit.Emit(v, 18)
+		for level := range 3 {
+			c, err, line := compile.Tree(p, level)
+			if err != api.OK || line != 0 || !asm.Same(c, want[level]) {
+				t.Fatal("K2: level", level, text(p), err, line)
+			}
+		}
+		if !asm.Same(want[0], want[1]) && !asm.Same(want[1], want[2]) {
+			unlike++
+		}
+	}
+	if unlike < 100 {
+		t.Error("too few that are unlike", unlike)
 	}
 }
 

@@ -4,6 +4,7 @@ import (
 	"fmt"
 	"reflect"
 	"slices"
+	"sort"
 	"strings"
 	"testing"
 
@@ -172,6 +173,17 @@ func TestErrors(t *testing.T) {
 		t.Error("E2: a long unit", err)
 	}
 	emitted(t, long(2000), 0)
+	// The most that is emitted is as long as may be, but for what one more would add.
+	for _, registers := range []int{0, 18} {
+		each := len(emitted(t, long(1001), registers).Lines) - len(emitted(t, long(1000), registers).Lines)
+		most := sort.Search(40001, func(n int) bool {
+			_, err := emit.Emit(long(n), registers)
+			return err != api.OK
+		}) - 1
+		if c := emitted(t, long(most), registers); len(c.Lines) > api.MaxLines || len(c.Lines)+each <= api.MaxLines {
+			t.Error("E2: the longest unit", most, len(c.Lines), each)
+		}
+	}
 	var many api.Unit
 	for i := range 4000 {
 		many.Flows = append(many.Flows, function(fmt.Sprint("g", i), 0, 40, block(back(39), slices.Repeat([]api.Ins{print(0)}, 20)...)))

@@ -100,10 +100,6 @@ func TestRun(t *testing.T) {
 		{"mv x5, x0; jal f; f: ;mv x10, x1; li x17, 3; ecall", nil, 9, api.Run{Status: api.StatDone, Code: 8, Steps: 5}},
 		{"ret", nil, 9, api.Run{Status: api.StatFault, Steps: 1}}, {"ret", nil, 0, api.Run{}}, {"li x1, 4; ret", nil, 9, api.Run{Status: api.StatFault, Steps: 2}}, {"li x1, 8; ret; jal a; a:", nil, 9, api.Run{Status: api.StatFault, Steps: 2}}, {"li x1, 12; ret; jal a; a:", nil, 9, api.Run{Status: api.StatFault, Steps: 2}}, {"li x1, 13; ret; jal a; a:", nil, 9, api.Run{Status: api.StatFault, Steps: 2}}, {"li x1, 12; ret; jal a; li x17, 3; ecall; a:", nil, 9, api.Run{Status: api.StatDone, Steps: 4}}, {"li x1, -4; ret", nil, 9, api.Run{Status: api.StatFault, Steps: 2}}, {"li x1, 16; ret; j a; a: ;ecall", nil, 9, api.Run{Status: api.StatFault, Steps: 2}},
 		{"a: ;ret; jal a", nil, 9, api.Run{Status: api.StatFault, Steps: 1}}, {"j b; a: ;ret; b: ;jal a", nil, 9, api.Run{Status: api.StatFault, Steps: 3}}, {"j b; a: ;ret; b: ;jal a", nil, 3, api.Run{Status: api.StatFault, Steps: 3}},
-		// words that are none
-		{"ld x0, 0(x0)", nil, 9, api.Run{Status: api.StatFault, Steps: 1}}, {"sd x0, 0(x0)", nil, 9, api.Run{Status: api.StatFault, Steps: 1}}, {"ld x5, 0(x2)", nil, 9, api.Run{Status: api.StatFault, Steps: 1}}, {"sd x5, -4(x2)", nil, 9, api.Run{Status: api.StatFault, Steps: 1}}, {"ld x5, -8(x2)", nil, 9, api.Run{Status: api.StatFault, Steps: 1}},
-		{"li x5, 32768; sub x5, x2, x5; ld x6, 0(x5); sd x6, 0(x5); ld x6, -8(x5)", nil, 9, api.Run{Status: api.StatFault, Steps: 5}},
-		{".array q 2; la x5, q; ld x6, 8(x5); ld x6, 16(x5)", nil, 9, api.Run{Status: api.StatFault, Steps: 3}}, {".array q 2; la x5, q; ld x6, -8(x5)", nil, 9, api.Run{Status: api.StatFault, Steps: 2}}, {".array q 2; la x5, q; ld x6, 4(x5)", nil, 9, api.Run{Status: api.StatFault, Steps: 2}}, {"li x5, 65536; ld x6, 0(x5)", nil, 9, api.Run{Status: api.StatFault, Steps: 2}},
 	} {
 		got := mach.Run(code(t, c.text), c.in, c.steps)
 		if !same(got, c.want) {
@@ -112,6 +108,27 @@ func TestRun(t *testing.T) {
 	}
 	if got := mach.Run(api.Code{Lines: []api.Line{{In: api.Instr{Op: api.InJ, Name: "a"}}}}, nil, 9); !same(got, api.Run{}) {
 		t.Error("M2: of code with an error", got)
+	}
+}
+
+// TestFaults: what is none is a fault, where without it there is an end; and the step counts.
+func TestFaults(t *testing.T) {
+	const done = "; li x17, 3; ecall"
+	for text, steps := range map[string]int{"ld x0, 0(x0)": 1, "sd x0, 0(x0)": 1, "ld x5, 0(x2)": 1, "sd x5, 0(x2)": 1, "ld x5, -1(x2)": 1, "ld x5, -2(x2)": 1, "sd x5, -4(x2)": 1, "ld x5, -15(x2)": 1, "li x5, 32768; sub x5, x2, x5; ld x6, 0(x5); sd x6, 0(x5); ld x6, -8(x5)": 5, ".array q 2; la x5, q; ld x6, 8(x5); ld x6, 16(x5)": 3, ".array q 2; la x5, q; sd x6, 16(x5)": 2, ".array q 2; la x5, q; ld x6, -8(x5)": 2, ".array q 2; la x5, q; ld x6, 4(x5)": 2, ".array q 2; la x5, q; sd x6, 1(x5)": 2, "li x5, 65536; ld x6, 0(x5)": 2, "li x5, -9223372036854775808; ld x6, 0(x5)": 2, "li x5, 9223372036854775807; ld x6, 1(x5)": 2, "ecall": 1, "li x17, 6; ecall": 2, "li x17, 4; li x10, 1; ecall": 3, "li x17, 4; li x10, 5; ecall": 3, "ret": 1, "li x1, 4; ret": 2, "li x1, 13; ret; jal a; a:": 2, "li x1, -4; ret": 2} {
+		for n := range 8 {
+			want := api.Run{Status: api.StatFault, Steps: steps}
+			if n < steps {
+				want = api.Run{Steps: n}
+			}
+			if got := mach.Run(code(t, text+done), nil, n); !same(got, want) {
+				t.Error("M2:", text, n, "told", got, "not", want)
+			}
+		}
+	}
+	for _, text := range []string{"ld x5, -8(x2)", "sd x5, -8(x2)", "li x5, 32768; sub x5, x2, x5; ld x5, 0(x5)", ".array q 2; la x5, q; ld x6, 8(x5)", "li x1, 12; ret; jal a; a:"} {
+		if got := mach.Run(code(t, text+done), nil, 99); got.Status != api.StatDone {
+			t.Error("M2: no fault:", text, got)
+		}
 	}
 }
 
