@@ -197,8 +197,12 @@ func TestTexts(t *testing.T) {
 func TestLevels(t *testing.T) {
 	d := sample.New(41)
 	unlike := 0
+	// Of this one a third time would leave out more than the second did.
+	progs := []api.Prog{prog(t, "int main() { int w; int x; int y; x = read(); y = read(); w = y; y = x; x = 5; print(y); print(w); }")}
 	for range 150 {
-		p := sample.Prog(d)
+		progs = append(progs, sample.Prog(d))
+	}
+	for _, p := range progs {
 		u, _ := lower.Lower(p)
 		v := u
 		for range 2 {
