@@ -72,6 +72,12 @@ func set(name string, e api.Expr) api.Stmt {
 
 func give(e api.Expr) api.Stmt { return api.Stmt{Kind: api.StmtReturn, Args: exprs(e)} }
 
+func ask(e api.Expr) api.Stmt { return api.Stmt{Kind: api.StmtCall, Args: exprs(e)} }
+
+func store(at, e api.Expr) api.Stmt {
+	return api.Stmt{Kind: api.StmtStore, Name: memory, Args: exprs(at, e)}
+}
+
 func tell(e api.Expr) api.Stmt { return api.Stmt{Kind: api.StmtPrint, Args: exprs(e)} }
 
 func trap(e api.Expr) api.Stmt { return api.Stmt{Kind: api.StmtTrap, Args: exprs(e)} }

@@ -15,10 +15,13 @@ func (l *lifter) helpers(landings []int) []api.Func {
 		out = append(out, deep(), end())
 	}
 	if l.needs[funcCall] > 0 {
-		out = append(out, ask())
+		out = append(out, called())
 	}
-	if l.needs[funcAt] > 0 {
-		out = append(out, at(l.words))
+	if l.needs[funcGet] > 0 {
+		out = append(out, l.reaches(funcGet, "a", "n"))
+	}
+	if l.needs[funcPut] > 0 {
+		out = append(out, l.reaches(funcPut, "a", "n", "b"))
 	}
 	if l.needs[funcBack] > 0 {
 		out = append(out, l.back(landings))
@@ -26,19 +29,25 @@ func (l *lifter) helpers(landings []int) []api.Func {
 	return out
 }
 
-// at tells which word stands at a place.
-func at(words int) api.Func {
+// reaches looks for the word that stands at the sum of its first two params, and returns it, or puts the third one there.
+func (l *lifter) reaches(name string, params ...string) api.Func {
 	a := variable("a")
-	within := func(from, to int) api.Expr {
-		return two(api.OpAnd, two(api.OpGe, a, number(from)), two(api.OpLt, a, number(to)))
+	does := func(word api.Expr) []api.Stmt {
+		if len(params) > 2 {
+			return body(store(word, variable(params[2])), give(number(0)))
+		}
+		return body(give(element(word)))
 	}
-	word3 := func(from int) api.Expr { return two(api.OpShr, plus(a, -from), number(3)) }
-	whole := body(when(within(stackFirst, api.StackTop), give(plus(word3(stackFirst), words))))
-	if words > 0 {
-		end := api.DataBase + word*words
-		whole = append(whole, when(within(api.DataBase, end), give(word3(api.DataBase))))
+	within := func(from, to, first int) api.Stmt {
+		is := two(api.OpAnd, two(api.OpGe, a, number(from)), two(api.OpLt, a, number(to)))
+		return when(is, does(plus(two(api.OpShr, plus(a, -from), number(3)), first))...)
 	}
-	return api.Func{Name: funcAt, Params: []string{"a"}, Body: body(when(same(two(api.OpAnd, a, number(word-1)), 0), whole...), fault())}
+	list := body(within(stackFirst, api.StackTop, l.words))
+	if l.words > 0 {
+		list = append(list, within(api.DataBase, api.DataBase+word*l.words, 0))
+	}
+	whole := when(same(two(api.OpAnd, a, number(word-1)), 0), list...)
+	return api.Func{Name: name, Params: params, Body: body(set("a", two(api.OpAdd, a, variable("n"))), whole, fault())}
 }
 
 // back tells which block InRet goes to.
@@ -63,8 +72,8 @@ func (l *lifter) landing(places []int) []api.Stmt {
 	return body(choose(two(api.OpLt, a, number(width*places[n/2])), l.landing(places[:n/2]), l.landing(places[n/2:])))
 }
 
-// ask is an ecall that does not end the run with a code; it tells what x10 is behind it.
-func ask() api.Func {
+// called is an ecall that does not end the run with a code; it tells what x10 is behind it.
+func called() api.Func {
 	n, a := variable("n"), variable("a")
 	return api.Func{Name: funcCall, Params: []string{"n", "a"}, Body: body(
 		when(same(n, api.CallPrint), tell(a), give(a)),

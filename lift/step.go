@@ -76,17 +76,13 @@ func (l *lifter) plain(in api.Instr) []api.Stmt {
 	case api.InAddi:
 		return body(d.set(plus(a.value(), in.N)))
 	case api.InLd:
-		return body(d.set(element(l.word(in))))
+		l.need(funcGet)
+		return body(d.set(call(funcGet, a.value(), number(in.N))))
 	case api.InSd:
-		return body(api.Stmt{Kind: api.StmtStore, Name: memory, Args: exprs(l.word(in), b.value())})
+		l.need(funcPut)
+		return body(ask(call(funcPut, a.value(), number(in.N), b.value())))
 	}
 	return body(d.set(two(operator(in.Op), a.value(), b.value())))
-}
-
-// word is the number of the word that an instruction moves.
-func (l *lifter) word(in api.Instr) api.Expr {
-	l.need(funcAt)
-	return call(funcAt, plus(reg(in.A).value(), in.N))
 }
 
 // operator is the one that makes what an instruction makes.
