@@ -175,13 +175,18 @@ func TestErrors(t *testing.T) {
 	emitted(t, long(2000), 0)
 	// The most that is emitted is as long as may be, but for what one more would add.
 	for _, registers := range []int{0, 18} {
-		each := len(emitted(t, long(1001), registers).Lines) - len(emitted(t, long(1000), registers).Lines)
-		most := sort.Search(40001, func(n int) bool {
-			_, err := emit.Emit(long(n), registers)
-			return err != api.OK
-		}) - 1
-		if c := emitted(t, long(most), registers); len(c.Lines) > api.MaxLines || len(c.Lines)+each <= api.MaxLines {
-			t.Error("E2: the longest unit", most, len(c.Lines), each)
+		for _, x := range []api.Ins{print(0), num(0, 1)} {
+			all := func(n int) api.Unit {
+				return api.Unit{Flows: []api.Flow{function("main", 0, 1, block(back(0), slices.Repeat([]api.Ins{x}, n)...))}}
+			}
+			each := len(emitted(t, all(1001), registers).Lines) - len(emitted(t, all(1000), registers).Lines)
+			most := sort.Search(40001, func(n int) bool {
+				_, err := emit.Emit(all(n), registers)
+				return err != api.OK
+			}) - 1
+			if c := emitted(t, all(most), registers); len(c.Lines) > api.MaxLines || len(c.Lines)+each <= api.MaxLines {
+				t.Error("E2: the longest unit", most, len(c.Lines), each)
+			}
 		}
 	}
 	var many api.Unit
